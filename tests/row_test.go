@@ -409,8 +409,25 @@ func combinations(n int) [][]int {
 	return lists[:len(lists)-1]
 }
 
-// The first rows are Whole but for what is lost, the last one is not.
-func TestEveryCombinationOfLosses(t *testing.T) {
+// suffered gives the disks and their table after a combination of losses; those
+// that are hurt are hurt at the row.
+func suffered(list []impl.Disk, table [][]int64, states []int, row int64) ([]impl.Disk, [][]int64) {
+	for i, state := range states {
+		disk := int64(i)
+		switch state {
+		case hurt:
+			list, table = damaged(list, disk, row, damages()[disk]), loseCell(table, disk, row)
+		case dead:
+			list, table = withDead(list, disk), loseDisk(table, disk)
+		}
+	}
+	return list, table
+}
+
+// afterEveryCombination checks disks, each with their table, after every
+// combination of losses; the first rows were Whole before it, the last was not.
+func afterEveryCombination(t *testing.T, check func(*testing.T, []impl.Disk, [][]int64)) {
+	t.Helper()
 	for n := 3; n <= 5; n++ {
 		table := append(wholeTable(n, 2, 7), spread(n, 9))
 		if parityByCounting(table[2]) == 0 {
@@ -419,20 +436,15 @@ func TestEveryCombinationOfLosses(t *testing.T) {
 		list := arrayOf(t, table)
 		for _, states := range combinations(n) {
 			for row := range int64(3) {
-				after, left := list, table
-				for i, state := range states {
-					disk := int64(i)
-					switch state {
-					case hurt:
-						after, left = damaged(after, disk, row, damages()[disk]), loseCell(left, disk, row)
-					case dead:
-						after, left = withDead(after, disk), loseDisk(left, disk)
-					}
-				}
-				checkArray(t, after, left)
+				after, left := suffered(list, table, states, row)
+				check(t, after, left)
 			}
 		}
 	}
+}
+
+func TestEveryCombinationOfLosses(t *testing.T) {
+	afterEveryCombination(t, checkArray)
 }
 
 // A row with the wrong parity is not Whole though nothing in it is lost; its
