@@ -900,6 +900,10 @@ func TestArraysAtTheEndsOfNumbers(t *testing.T) {
 // arrayCalls are the functions that return an array, each with arguments that
 // change something and with ones that are rejected.
 func arrayCalls() []func(impl.Array) impl.Array {
+	return slices.Concat(writeCalls(), healCalls(), faultCalls())
+}
+
+func writeCalls() []func(impl.Array) impl.Array {
 	begun := func(l, value int64) func(impl.Array) impl.Array {
 		return func(a impl.Array) impl.Array {
 			got, _ := impl.Begun(a, l, value)
