@@ -900,7 +900,7 @@ func TestArraysAtTheEndsOfNumbers(t *testing.T) {
 // arrayCalls are the functions that return an array, each with arguments that
 // change something and with ones that are rejected.
 func arrayCalls() []func(impl.Array) impl.Array {
-	return slices.Concat(writeCalls(), healCalls(), faultCalls())
+	return slices.Concat(writeCalls(), healCalls(), faultCalls(), crashCalls())
 }
 
 func writeCalls() []func(impl.Array) impl.Array {

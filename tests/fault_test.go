@@ -281,7 +281,7 @@ func faultCalls() []func(impl.Array) impl.Array {
 // The disks of an answer are new memory each, though only one of them is hit.
 func TestFaultsLeaveOtherAnswersAlone(t *testing.T) {
 	a := writtenArray(t, 3, 2)
-	for _, f := range slices.Concat(faultCalls(), healCalls()) {
+	for _, f := range slices.Concat(faultCalls(), healCalls(), crashCalls()) {
 		one, two := f(a), f(a)
 		want := copyArray(two)
 		scribbleDisks(one.Disks)
