@@ -941,22 +941,28 @@ func copyArray(a impl.Array) impl.Array {
 	return a
 }
 
+// withAndWithoutRoom gives an array with unused capacity and without any, and a
+// check that the first is as it was and that a call answered both the same.
+func withAndWithoutRoom(t *testing.T, a impl.Array) (room, tight impl.Array, check func(what string, same bool)) {
+	room, tight = a, copyArray(a)
+	room.Disks = roomyDisks(a.Disks)
+	before := memoryOf(room.Disks)
+	return room, tight, func(what string, same bool) {
+		t.Helper()
+		if !memoryOf(room.Disks).same(before) {
+			t.Fatalf("%s changed %v", what, a)
+		}
+		if !same {
+			t.Fatalf("%s of %v hangs on what lies behind an end", what, a)
+		}
+	}
+}
+
 // P21: no call changes the disks of an array or their cells, the unused capacity
 // included; and nothing hangs on what lies in it.
 func TestArraysLeaveTheirArgumentsAlone(t *testing.T) {
 	for _, a := range memoryArrays(t) {
-		room, tight := a, copyArray(a)
-		room.Disks = roomyDisks(a.Disks)
-		before := memoryOf(room.Disks)
-		check := func(what string, same bool) {
-			t.Helper()
-			if !memoryOf(room.Disks).same(before) {
-				t.Fatalf("%s changed %v", what, a)
-			}
-			if !same {
-				t.Fatalf("%s of %v hangs on what lies behind an end", what, a)
-			}
-		}
+		room, tight, check := withAndWithoutRoom(t, a)
 		check("ArrayOk", impl.ArrayOk(room) == impl.ArrayOk(tight))
 		for _, l := range []int64{-1, 0, 1, 3, 7, 8} {
 			got, ok := impl.ReadArray(room, l)
